@@ -65,6 +65,10 @@ func summed(h string) string { return withSum(h, fmt.Sprintf("%06o\x00 ", sumOf(
 
 func file(name, data string) string { return head{name: name, typ: '0'}.with(data) }
 
+func dir(name string) string { return head{name: name, typ: '5'}.with("") }
+
+func link(name, to string) string { return head{name: name, link: to, typ: '2'}.with("") }
+
 func pax(data string) string { return head{name: "pax", typ: 'x'}.with(data) }
 
 // record is one with the length that it has.

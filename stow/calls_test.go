@@ -1,6 +1,7 @@
 package stow_test
 
 import (
+	"fmt"
 	"math/rand/v2"
 	"runtime"
 	"strings"
@@ -50,20 +51,28 @@ func TestCallsEnd(t *testing.T) {
 	}
 }
 
-// TestAnswersStandAlone: the same argument gives the same answer, whoever else calls and whatever was asked ahead.
+// allAnswers is what Read and Unpack answer, and what is unpacked into a world of its own where others are at work, as one text.
+func allAnswers(archive string) string {
+	w := world.New(places("target/a target/a/b=1"), []world.Op{{At: 3, Name: "a"}, {At: 9, Name: "a", Kind: world.Link, Text: "b"}}, []int{5, 20})
+	refused, err, place := stow.Unpack(w, archive)
+	return fmt.Sprint(answer(stow.Read(archive)), refused, err, place, under(w), w.Calls())
+}
+
+// TestAnswersStandAlone: the same arguments give the same answer, whoever else calls and whatever was asked ahead.
 func TestAnswersStandAlone(t *testing.T) {
 	r := rand.New(rand.NewPCG(5, 6))
 	var texts, want []string
-	for range 300 {
-		s := someArchive(r)
-		texts, want = append(texts, s), append(want, answer(stow.Read(s)))
+	for range 150 {
+		for _, s := range []string{someArchive(r), someEntries(r)} {
+			texts, want = append(texts, s), append(want, allAnswers(s))
+		}
 	}
 	var all sync.WaitGroup
 	for from := range 8 {
 		all.Go(func() {
 			for i := range texts {
 				k := (i + from*37) % len(texts)
-				if got := answer(stow.Read(texts[k])); got != want[k] {
+				if got := allAnswers(texts[k]); got != want[k] {
 					t.Errorf("archive %d: %.200s, and ahead of it %.200s", k, got, want[k])
 				}
 			}
@@ -108,12 +117,29 @@ func TestAnswersAreNew(t *testing.T) {
 	}
 }
 
+func TestUnpackedIsNew(t *testing.T) {
+	s := file("d/f", "data") + pax(record("path", "told")+record("linkpath", "led")) + link("l", "to") + link("m", "to") + dir("/d") + zeros
+	w := world.New(nil, nil, nil)
+	one, _, _ := stow.Unpack(w, s)
+	for _, p := range w.Tree() {
+		if within(p.Text, s) {
+			t.Errorf("what is in %q lies in the archive", p.Path)
+		}
+	}
+	one[0] = -1
+	if two, _, _ := stow.Unpack(w, s); len(two) != 1 || two[0] != 3 {
+		t.Errorf("the next answer is %v", two)
+	}
+}
+
 // TestNobodyIsLeft: however the reading ends, whoever sent has ended, too.
 func TestNobodyIsLeft(t *testing.T) {
 	before := runtime.NumGoroutine()
 	for _, s := range []string{"", zeros, file("f", "x") + zeros, file("f", "x"), pax("no"), strings.Repeat(file("f", ""), 40), file("f", strings.Repeat("x", 6001)) + file("g", "") + zeros, strings.Repeat("x", 40001)} {
 		for range 50 {
 			stow.Read(s)
+			stow.Unpack(world.New(nil, nil, []int{1, 2}), s)
+			stow.Unpack(nil, s)
 		}
 	}
 	// The runtime takes a moment to count off those that have ended.

@@ -62,4 +62,8 @@ func Refused(e Entry) bool {
 }
 
 // Unpack unpacks an archive into the target; it answers the numbers of the entries that were refused (P4).
-func Unpack(w *world.World, archive string) ([]int, Errno, int) { return nil, OK, 0 }
+func Unpack(w *world.World, archive string) ([]int, Errno, int) {
+	u := unpacker{World: w, made: map[trail]struct{}{}}
+	end := u.unpackAll(archive)
+	return u.refused, end.err, end.place
+}
