@@ -83,19 +83,25 @@ func somePath(r *rand.Rand) string {
 	return strings.Join(list, "/")
 }
 
-func someEntries(r *rand.Rand) string {
-	s := ""
+// somePieces are some entries of an archive, each with what is told ahead of it.
+func somePieces(r *rand.Rand) []string {
+	var pieces []string
 	for range pick(r, 0, 1, 2, 4, 8, 16, 29) {
+		ahead := ""
 		if r.IntN(12) == 0 {
-			s += pax(record(pick(r, "path", "linkpath"), somePath(r)))
+			ahead = pax(record(pick(r, "path", "linkpath"), somePath(r)))
 		}
 		h := head{name: somePath(r), typ: pick[byte](r, '0', '0', 0, '5', '5', '2', '2', '1')}
 		if h.typ == '2' {
 			h.link = somePath(r)
 		}
-		s += h.with(pick(r, "", "x", "y"))
+		pieces = append(pieces, ahead+h.with(pick(r, "", "x", "y")))
 	}
-	return s + pick(r, zeros, zeros, zeros, "", zeros[1:])
+	return pieces
+}
+
+func someEntries(r *rand.Rand) string {
+	return strings.Join(somePieces(r), "") + pick(r, zeros, zeros, zeros, "", zeros[1:])
 }
 
 func someTree(r *rand.Rand) []world.Place {

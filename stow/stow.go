@@ -61,7 +61,7 @@ func Refused(e Entry) bool {
 	return true
 }
 
-// Unpack unpacks an archive into the target; it answers the numbers of the entries that were refused (P4).
+// Unpack unpacks an archive into the target; it answers the numbers of the entries that were refused (P4, P5).
 func Unpack(w *world.World, archive string) ([]int, Errno, int) {
 	u := unpacker{World: w, made: map[trail]struct{}{}}
 	end := u.unpackAll(archive)

@@ -1,6 +1,7 @@
 package stow
 
 import (
+	"maps"
 	"slices"
 	"sync"
 
@@ -20,6 +21,12 @@ func (t trail) down(name string) trail {
 }
 
 func (t trail) last() string { return t.names[t.depth-1] }
+
+func (t trail) under(dir trail) bool {
+	t.depth = dir.depth
+	clear(t.names[t.depth:])
+	return t == dir
+}
 
 // unpacker unpacks the entries of one archive into a world.
 type unpacker struct {
@@ -82,24 +89,29 @@ func (u *unpacker) unpack(e Entry) (done bool) {
 	return
 }
 
-// enter opens the directory at the end of a trail, in the one ahead of it; what is not there is made.
+// enter opens the directory at the end of a trail, in the one ahead of it.
 func (u *unpacker) enter(ahead int, at trail) int {
-	if _, ok := u.made[at]; ok {
-		handle, err := u.OpenHere(ahead, at.last())
-		// Others may have taken away what was made: then it is made once more.
-		if err != world.ErrNone {
-			must(err)
-			return handle
-		}
-	}
-	if u.kindOf(ahead, at.last()) == world.None {
-		must(u.Make(ahead, at.last()))
-		u.made[at] = struct{}{}
+	if _, ok := u.made[at]; !ok {
+		u.prepare(ahead, at)
 	}
 	// What is no directory, or is none any more, is not opened: a link is not followed.
 	handle, err := u.OpenHere(ahead, at.last())
+	if err != world.OK {
+		delete(u.made, at) // others may have taken it away: the next entry looks
+	}
 	must(err)
 	return handle
+}
+
+// prepare makes the directory at the end of a trail, if nothing is there.
+func (u *unpacker) prepare(ahead int, at trail) {
+	if u.kindOf(ahead, at.last()) != world.None {
+		return
+	}
+	must(u.Make(ahead, at.last()))
+	// Nothing is in a new directory, whatever was made in one that others took away.
+	maps.DeleteFunc(u.made, func(t trail, _ struct{}) bool { return t.under(at) })
+	u.made[at] = struct{}{}
 }
 
 // put makes a file or a link in a directory.
